@@ -1,0 +1,222 @@
+package scribe
+
+import "testing"
+
+func TestBlocksHeadingsAndPre(t *testing.T) {
+	mustShow(t, false, []row{
+		{`: <p "1 <p "2 .`, `: p('1')p('2')`},
+		{`: <p <address <article <blockquote .`, `: p()address(article(blockquote()))`},
+		{`: <p <center </center <div </div <dl </dl <main </main <nav </nav <ol </ol <section </section <ul .`, `: p()center()div()dl()main()nav()ol()section()ul()`},
+		{`: <p <b <div "x .`, `: p(b())div(b('x'))`},
+		{`: <p <button <div <p "x .`, `: p(button(div(p('x'))))`},
+		{`: <p <object <div .`, `: p(object(div()))`},
+		{`: <div <p "x </div "y .`, `: div(p('x'))'y'`},
+		{`: <div <b "x </div "y .`, `: div(b('x'))b('y')`},
+		{`: <div <li <dd <p </div "x .`, `: div(li(dd(p())))'x'`},
+		{`: <object <div </object </div .`, `: object(div())`},
+		{`: </div </section "x .`, `: 'x'`},
+		{`: <section <div </section "x .`, `: section(div())'x'`},
+		{`: <h1 "1 <h2 "2 </h3 "3 .`, `: h1('1')h2('2')'3'`},
+		{`: <p <h1 <b <h2 "x .`, `: p()h1(b(h2('x')))`},
+		{`: <h1 <div <h2 </h1 "x .`, `: h1(div(h2()'x'))`},
+		{`: <h1 <object </h1 .`, `: h1(object())`},
+		{`: </h1 "x .`, `: 'x'`},
+		{`: <h1 <li </h6 "x .`, `: h1(li())'x'`},
+		{`: <h2 </h3 "2 <h3 </h4 "3 <h4 </h5 "4 <h5 </h6 "5 <h6 </h1 "6 .`, `: h2()'2'h3()'3'h4()'4'h5()'5'h6()'6'`},
+		{`: <p <pre "^x </pre "^y .`, `: p()pre('x')'^y'`},
+		{`: <pre "^^x .`, `: pre('^x')`},
+		{`: <pre "^ "^x .`, `: pre('^x')`},
+		{`: <pre "x .`, `: pre('x')`},
+		{`: <pre -c "^x .`, `: pre(!c!'^x')`},
+		{`: <pre ?? "^x .`, `: pre('x')`},
+		{`: <pre <b "^x .`, `: pre(b('^x'))`},
+		{`: <pre "x^ .`, `: pre('x^')`},
+		{`: <pre "^ .`, `: pre()`},
+		{`: <p <plaintext "x <b .`, `: p()plaintext('x'b())`},
+	})
+}
+
+func TestForms(t *testing.T) {
+	mustShow(t, false, []row{
+		{`: <form "1 <form "2 </form "3 .`, `: form('12')'3'`},
+		{`: <p <form,a <div </form "x .`, `: p()form.a(div('x'))`},
+		{`: <form <object </form "x .`, `: form(object('x'))`},
+		{`: <form <p </form "x .`, `: form(p())'x'`},
+		{`: <div </form <form "x .`, `: div(form('x'))`},
+		{`: <form </div </form <form "x .`, `: form()form('x')`},
+		{`: <template <form <form "x </form "y .`, `: template({form(form('x')'y')})`},
+		{`: <form <template <form </form "x .`, `: form(template({form()'x'}))`},
+		{`: <template <div </form "x .`, `: template({div('x')})`},
+		{`: <template <form </template <form "x .`, `: template({form()})form('x')`},
+		{`: <form <div <template </template </form "x </form .`, `: form(div(template({})'x'))`},
+		{`: <table <form "x </form <form .`, `: 'x'table(form()form())`},
+		{`: <form <table <form "x .`, `: form('x'table())`},
+		{`: <table <template <form "x .`, `: table(template({form('x')}))`},
+	})
+}
+
+func TestItemsAndParagraphs(t *testing.T) {
+	mustShow(t, false, []row{
+		{`: <ul <li "1 <li "2 <ul <li "3 </ul <li "4 .`, `: ul(li('1')li('2'ul(li('3')))li('4'))`},
+		{`: <li <div <address <p <li "x .`, `: li(div(address(p())))li('x')`},
+		{`: <li <section <li "x .`, `: li(section(li('x')))`},
+		{`: <li <b <li "x .`, `: li(b())li(b('x'))`},
+		{`: <li <button <li "x .`, `: li(button(li('x')))`},
+		{`: <p <li "x .`, `: p()li('x')`},
+		{`: <li <dd <li .`, `: li(dd(li()))`},
+		{`: <dl <dt "1 <dd "2 <dt "3 </dl .`, `: dl(dt('1')dd('2')dt('3'))`},
+		{`: <dd <div <dt <p <dd .`, `: dd(div())dt(p())dd()`},
+		{`: <dd <b <dd "x .`, `: dd(b())dd(b('x'))`},
+		{`: <dt <center <dd .`, `: dt(center(dd()))`},
+		{`: <li </li "x .`, `: li()'x'`},
+		{`: <li <ol </li "x .`, `: li(ol('x'))`},
+		{`: <li <ul </li "x .`, `: li(ul('x'))`},
+		{`: <li <p </li "x .`, `: li(p())'x'`},
+		{`: <ul </li "x .`, `: ul('x')`},
+		{`: <dd <li </dd "x .`, `: dd(li())'x'`},
+		{`: <dd <ul </dd "x .`, `: dd(ul())'x'`},
+		{`: <dd <object </dd "x .`, `: dd(object('x'))`},
+		{`: <dt <dd </dt .`, `: dt()dd()`},
+		{`: </dd </dt </li "x .`, `: 'x'`},
+		{`: <p </p "x .`, `: p()'x'`},
+		{`: </p .`, `: p()`},
+		{`: <p <b </p "x .`, `: p(b())b('x')`},
+		{`: <p <button </p "x .`, `: p(button(p()'x'))`},
+		{`: <p <li </p "x .`, `: p()li(p()'x')`},
+		{`: <p <object </p "x .`, `: p(object(p()'x'))`},
+		{`: <p <svg <desc </p "x .`, `: p(~svg(~desc(p()'x')))`},
+	})
+}
+
+func TestButtonsAndObjects(t *testing.T) {
+	mustShow(t, false, []row{
+		{`: <button "1 <button "2 .`, `: button('1')button('2')`},
+		{`: <button <p <button "x .`, `: button(p())button('x')`},
+		{`: <button <object <button .`, `: button(object(button()))`},
+		{`: <button <dd </button "x .`, `: button(dd())'x'`},
+		{`: <b <button "x </b "y </button "z .`, `: b()button(b('x')'y')'z'`},
+		{`: <p <button </p .`, `: p(button(p()))`},
+		{`: </button "x .`, `: 'x'`},
+		{`: <b <applet "1 </b "2 </applet "3 .`, `: b(applet('12')'3')`},
+		{`: <marquee <p <li </marquee "x .`, `: marquee(p()li())'x'`},
+		{`: <object <b "1 </object "2 .`, `: object(b('1'))'2'`},
+		{`: </object </applet </marquee "x .`, `: 'x'`},
+		{`: <b <object <marquee </object "x .`, `: b(object(marquee('x')))`},
+		{`: <object <applet </object .`, `: object(applet())`},
+		{`: <object <div </applet .`, `: object(div())`},
+		{`: <object <b <p </p <p </object "x .`, `: object(b(p()p()))'x'`},
+	})
+}
+
+func TestVoidsAndSvg(t *testing.T) {
+	mustShow(t, false, []row{
+		{`: <p <area <br <embed <img,a <input <wbr "x .`, `: p(area()br()embed()img.a()input()wbr()'x')`},
+		{`: <p <hr,a "x .`, `: p()hr.a()'x'`},
+		{`: <p <source,a "x .`, `: p(source.a()'x')`},
+		{`: <image,a=1 "x .`, `: img.a=1()'x'`},
+		{`: </br "x .`, `: br()'x'`},
+		{`: <b <p </p </b <br .`, `: b(p())br()`},
+		{`: <b </p <b <p </br .`, `: b(p()b(p(br())))`},
+		{`: <b <i <p </b </i <source .`, `: b(i())i()p(i(b())source())`},
+		{`: <br,/ <img,/ <p,/ "x .`, `: br()img()p('x')`},
+		{`: <svg,a,viewbox=2 <g "x .`, `: ~svg.a.viewBox=2(~g('x'))`},
+		{`: <svg,/ "x .`, `: ~svg()'x'`},
+		{`: <b <p </p </b <svg <g .`, `: b(p())~svg(~g())`},
+		{`: <b </b <p <svg </b .`, `: b()p(~svg())`},
+	})
+}
+
+func TestRawElements(t *testing.T) {
+	mustShow(t, false, []row{
+		{`: <b <p </p <textarea "^x </textarea "y .`, `: b(p()textarea('x')'y')`},
+		{`: <textarea "^^x .`, `: textarea('^x')`},
+		{`: <textarea "^ "^x </textarea "^y .`, `: textarea('^x')'^y'`},
+		{`: <textarea </textarea "^x .`, `: textarea()'^x'`},
+		{`: <textarea -c <b "^x .`, `: textarea('^x')`},
+		{`: <p <b <xmp "<i> </xmp "x .`, `: p(b())b(xmp('<i>')'x')`},
+		{`: <b <p </b <xmp "y </xmp .`, `: b()p(b())xmp('y')`},
+		{`: <noscript <b "x .`, `: noscript(b('x'))`},
+		{`: <p <style "x </style <script "y </script "z .`, `: p(style('x')script('y')'z')`},
+		{`: <p <title "x </p "y .`, `: p(title('x')'y')`},
+		{`: <xmp </x "x .`, `: xmp()'x'`},
+		{`: <style !x -c <b .`, `: style()`},
+		{`: <textarea .`, `: textarea()`},
+	})
+}
+
+func TestFormatting(t *testing.T) {
+	mustShow(t, false, []row{
+		{`: <b <i </b "x .`, `: b(i())i('x')`},
+		{`: <p "1 <b "2 <i "3 </b "4 </i "5 </p .`, `: p('1'b('2'i('3'))i('4')'5')`},
+		{`: <b <p "x </b "y .`, `: b()p(b('x')'y')`},
+		{`: <b "1 <div "2 <p "3 </b "4 .`, `: b('1')div(b('2')p(b('3')'4'))`},
+		{`: <b <b <b <b "x </b "y .`, `: b(b(b(b('x')'y')))`},
+		{`: <b <b <b <b </b </b </b </b "x .`, `: b(b(b(b())))'x'`},
+		{`: <b <b <b <b <b </b </b </b <q </b "x .`, `: b(b(b(b(b()))q())'x')`},
+		{`: <p <b <b <b <b <p "x .`, `: p(b(b(b(b()))))p(b(b(b('x'))))`},
+		{`: <p <b,a <b,a <b <b,a <b,a <p "x .`, `: p(b.a(b.a(b(b.a(b.a())))))p(b.a(b(b.a(b.a('x')))))`},
+		{`: <p <b,a=1,b <b,b,a=1 <b,a=1,b <b,b,a=1 <p "x .`, `: p(b.a=1.b(b.b.a=1(b.a=1.b(b.b.a=1()))))p(b.b.a=1(b.a=1.b(b.b.a=1('x'))))`},
+		{`: <p <b <b <object <b <b <p "x .`, `: p(b(b(object(b(b(p('x')))))))`},
+		{`: <p <b <i </p "x .`, `: p(b(i()))b(i('x'))`},
+		{`: <p <b <object </p "x </object "y .`, `: p(b(object(p()'x')'y'))`},
+		{`: </b "x .`, `: 'x'`},
+		{`: <b </b </b "x .`, `: b()'x'`},
+		{`: <b <x </b "y .`, `: b(x())'y'`},
+		{`: <q <b </q "x .`, `: q(b())b('x')`},
+		{`: <q <div </q "x .`, `: q(div('x'))`},
+		{`: <b </p </b "x .`, `: b(p())'x'`},
+		{`: <div <b </div </b "x .`, `: div(b())'x'`},
+		{`: <object </b <b <object </b "x .`, `: object(b(object('x')))`},
+		{`: <b <table <td </b "x .`, `: b(table(tbody(tr(td('x')))))`},
+		{`: <a "1 <a "2 .`, `: a('1')a('2')`},
+		{`: <a "1 <p "2 <a "3 .`, `: a('1')p(a('2')a('3'))`},
+		{`: <a <b <a "x .`, `: a(b())b(a('x'))`},
+		{`: <a <div <div <a "x .`, `: a()div(a()div(a()a('x')))`},
+		{`: <a <object <a "x </a .`, `: a(object(a('x')))`},
+		{`: <p <a </p <a "x .`, `: p(a())a('x')`},
+		{`: <a <table <a "x .`, `: a(a('x')table())`},
+		{`: <a <p <object <a .`, `: a(p(object(a())))`},
+		{`: <nobr "1 <nobr "2 .`, `: nobr('1')nobr('2')`},
+		{`: <nobr <p <nobr "x .`, `: nobr()p(nobr()nobr('x'))`},
+		{`: <nobr <object <nobr "x .`, `: nobr(object(nobr('x')))`},
+		{`: <nobr <button <nobr "x .`, `: nobr()button(nobr()nobr('x'))`},
+		{`: <nobr <svg <desc <nobr "x .`, `: nobr(~svg(~desc(nobr('x'))))`},
+		{`: <p <nobr </p <nobr "x .`, `: p(nobr())nobr()nobr('x')`},
+		{`: <nobr <b <nobr "x .`, `: nobr(b())b(nobr('x'))`},
+		{`: <p <nobr <nobr .`, `: p(nobr()nobr())`},
+		{`: <font,a <code <em <i <small <strong <u <p </font "x .`, `: font.a(code(em(i(small(strong(u()))))))small(strong(u(p(font.a()'x'))))`},
+	})
+}
+
+func TestAdoption(t *testing.T) {
+	mustShow(t, false, []row{
+		{`: <b <i <p </b "x .`, `: b(i())i(p(b()'x'))`},
+		{`: <b <i <u <p </b "x .`, `: b(i(u()))i(u(p(b()'x')))`},
+		{`: <b <i <u <em <p </b "x .`, `: b(i(u(em())))i(u(em(p(b()'x'))))`},
+		{`: <b <i <u <em <small <p </b "x .`, `: b(i(u(em(small()))))u(em(small(p(b()'x'))))`},
+		{`: <b <i <u <em <small <code <p </b "x .`, `: b(i(u(em(small(code())))))em(small(code(p(b()'x'))))`},
+		{`: <b <q <p </b "x .`, `: b(q())p(b()'x')`},
+		{`: <b <q <i <q <p </b "x .`, `: b(q(i(q())))i(p(b()'x'))`},
+		{`: <b <i <q <u <q <em <small <p </b "x .`, `: b(i(q(u(q(em(small()))))))em(small(p(b()'x')))`},
+		{`: <b <p <p </b "x .`, `: b(p())p(b()'x')`},
+		{`: <b <p <div <p </b "x .`, `: b(p())div(b()p(b()'x'))`},
+		{`: <b <p <i <div </b "x .`, `: b(p(i()))div(b()i('x'))`},
+		{`: <b <div <div <div <div <div <div <div <div <div <div </b "x .`, `: b()div(b()div(b()div(b()div(b()div(b()div(b()div(b()div(b(div(div('x')))))))))))`},
+		{`: <b <div <div <div <div <div <div <div <div <p </b </p "x <div "y .`, `: b()div(b()div(b()div(b()div(b()div(b()div(b()div(b()div(b(p()'x'div('y'))))))))))`},
+		{`: <b <div <i </i <u </b "x </u "y .`, `: b()div(b(i()u())u('x')'y')`},
+		{`: <b <i <div </i </b "x .`, `: b(i())div(b(i())'x')`},
+		{`: <b <i <b <div </b "x </i "y .`, `: b(i(b())div(i(b()'x')'y'))`},
+		{`: <b <i </p <div </i "x </b .`, `: b(i(p()))div(b(i()'x'))`},
+		{`: <i <b <b <b <div </b "x .`, `: i(b(b(b()div(b()'x'))))`},
+		{`: <b,a=1 <b,a=2 <p "2 </b "3 </b "4 .`, `: b.a=1(b.a=2())p(b.a=1(b.a=2('2')'3')'4')`},
+		{`: <i <b <p "x -c <q </b "y .`, `: i(b()p(b('x'!c!q())'y'))`},
+		{`: <b <p <q <a </b "x </a .`, `: b()p(b(q(a()))a('x'))`},
+		{`: <b <p <table </b "x .`, `: b(p()'x'table())`},
+		{`: <b <svg <desc </b "x .`, `: b(~svg(~desc('x')))`},
+		{`: <b <li <li </b "x .`, `: b(li())li(b()'x')`},
+		{`: <template <b <p </b "x .`, `: template({b()p(b()'x')})`},
+		{`: <b <template <p </b "x .`, `: b(template({p('x')}))`},
+		{`: <b <form <p </b </form "x .`, `: b()form(b()p(b()))'x'`},
+		{`: <b <i <table <p </i "x .`, `: b(i(p('x')table()))`},
+	})
+}
