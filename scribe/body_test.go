@@ -218,5 +218,10 @@ func TestAdoption(t *testing.T) {
 		{`: <b <template <p </b "x .`, `: b(template({p('x')}))`},
 		{`: <b <form <p </b </form "x .`, `: b()form(b()p(b()))'x'`},
 		{`: <b <i <table <p </i "x .`, `: b(i(p('x')table()))`},
+		{`: <table <a "1 <p "2 </a "3 .`, `: a('1')p(a('2')'3')table()`},
+		{`: <table <tr <b <i <p </b "x .`, `: b(i())i(p(b()'x'))table(tbody(tr()))`},
+		{`: <b <table <i <p </i </b "x .`, `: b(i()p(i()'x')table())`},
+		{`: <template <table <b <p </b "x .`, `: template({b()p(b()'x')table()})`},
+		{`: <table <template <b <p </b "x .`, `: table(template({b()p(b()'x')}))`},
 	})
 }
