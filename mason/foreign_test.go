@@ -101,6 +101,8 @@ func TestParts(t *testing.T) {
 		{`form # <table <form </form <form .`, `table(form())`},
 		{`form # <template <form "x </template <form .`, `template({form('x')})`},
 		{`form # </form </form <form "x .`, `form('x')`},
+		{`form # <svg </form </svg <form "x .`, `~svg()form('x')`},
+		{`form # <svg </x </g </svg <form "x .`, `~svg()'x'`},
 		{`FORM # <form "x .`, `form('x')`},
 		{`Template # <tr "x .`, `'x'`},
 		{`body # <body,a <p </body "x .`, `p('x')`},
