@@ -64,6 +64,8 @@ func TestItemsAndParagraphs(t *testing.T) {
 		{`: <li <button <li "x .`, `: li(button(li('x')))`},
 		{`: <p <li "x .`, `: p()li('x')`},
 		{`: <li <dd <li .`, `: li(dd(li()))`},
+		{`: <li <form <li <span </form <li "x .`, `: li(form(li(span()))li('x'))`},
+		{`: <dd <form <dt <span </form <dd "x .`, `: dd(form(dt(span()))dd('x'))`},
 		{`: <dl <dt "1 <dd "2 <dt "3 </dl .`, `: dl(dt('1')dd('2')dt('3'))`},
 		{`: <dd <div <dt <p <dd .`, `: dd(div())dt(p())dd()`},
 		{`: <dd <b <dd "x .`, `: dd(b())dd(b('x'))`},
